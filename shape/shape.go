@@ -1,0 +1,40 @@
+// Package shape tells what a list of codes is: what the layers above terms ask before they work.
+package shape
+
+import (
+	"quaere/api"
+	"quaere/term"
+)
+
+// IsRow tells whether sig is valid and r is a row.
+func IsRow(sig []api.Sym, r []int) bool {
+	_, e := term.Row(sig, r)
+	return e == api.OK
+}
+
+// IsTerm tells whether sig is valid and r is a row of one term.
+func IsTerm(sig []api.Sym, r []int) bool {
+	n, e := term.Row(sig, r)
+	return e == api.OK && n == 1
+}
+
+// IsAtom tells whether sig is valid and r is an atom.
+func IsAtom(sig []api.Sym, r []int) bool {
+	if len(r) == 0 || r[0] < 0 || r[0] >= len(sig) || sig[r[0]].Kind != api.KindPred {
+		return false
+	}
+	n, e := term.Row(sig, r[1:])
+	return e == api.OK && n == sig[r[0]].Arity
+}
+
+// FirstTerm returns the number of codes of the first term of r, which is known to be a row with a term.
+func FirstTerm(sig []api.Sym, r []int) int {
+	n := 0
+	for open := 1; open > 0; n++ {
+		open--
+		if r[n] >= 0 {
+			open += sig[r[n]].Arity
+		}
+	}
+	return n
+}
