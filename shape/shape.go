@@ -2,6 +2,8 @@
 package shape
 
 import (
+	"slices"
+
 	"quaere/api"
 	"quaere/term"
 )
@@ -37,4 +39,16 @@ func FirstTerm(sig []api.Sym, r []int) int {
 		}
 	}
 	return n
+}
+
+// SameLit tells whether two literals are equal: they have the same Neg and the same Atom.
+func SameLit(l, m api.Lit) bool {
+	return l.Neg == m.Neg && slices.Equal(l.Atom, m.Atom)
+}
+
+// HasLit tells whether a literal equal to l is in ls.
+func HasLit(ls []api.Lit, l api.Lit) bool {
+	return slices.ContainsFunc(ls, func(m api.Lit) bool {
+		return SameLit(l, m)
+	})
 }

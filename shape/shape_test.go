@@ -104,3 +104,29 @@ func TestFirstTerm(t *testing.T) {
 		}
 	}
 }
+
+func TestSameLit(t *testing.T) {
+	codes := []int{eq, ann, f, ann}
+	l := api.Lit{Atom: codes}
+	for _, c := range []struct {
+		m    api.Lit
+		want bool
+	}{
+		{l, true},
+		{api.Lit{Atom: slices.Clone(codes)}, true},
+		{api.Lit{Neg: true, Atom: codes}, false},
+		{api.Lit{Atom: codes[:3]}, false},
+		{api.Lit{Atom: []int{eq, f, ann, ann}}, false},
+		{api.Lit{}, false},
+	} {
+		if shape.SameLit(l, c.m) != c.want || shape.SameLit(c.m, l) != c.want {
+			t.Errorf("SameLit(%v, %v) is not %t", l, c.m, c.want)
+		}
+		if shape.HasLit([]api.Lit{{Atom: []int{rains}}, c.m}, l) != c.want || shape.HasLit([]api.Lit{c.m, {Atom: []int{rains}}}, l) != c.want {
+			t.Errorf("HasLit(%v and another one, %v) is not %t", c.m, l, c.want)
+		}
+	}
+	if shape.HasLit(nil, l) || !shape.SameLit(api.Lit{Neg: true}, api.Lit{Neg: true, Atom: []int{}}) {
+		t.Error("no literal, no codes")
+	}
+}
