@@ -1,4 +1,4 @@
-// Package change tells what variables must become for one row to be changed to another one: what match and the layers above it do behind their checks.
+// Package change tells what variables must become for one row to be changed to another one, and puts what they become for them: what bind, match and the layers above them do behind their checks.
 package change
 
 import (
@@ -42,6 +42,26 @@ func (p *Pieces) Agrees(q *Pieces) bool {
 		}
 	}
 	return true
+}
+
+// Apply puts the terms of s for their variables in r, all at the same time, in new memory, and answers false if that has more codes than a row may have; s is known to be valid, r to be a row but for its length.
+func Apply(s []api.Bind, r []int) ([]int, bool) {
+	var terms [api.MaxVar + 1][]int
+	for _, b := range s {
+		terms[b.Var] = b.Term
+	}
+	var out []int
+	for _, code := range r {
+		if code < 0 && terms[-1-code] != nil {
+			out = append(out, terms[-1-code]...)
+		} else {
+			out = append(out, code)
+		}
+		if len(out) > api.MaxTerm {
+			return nil, false
+		}
+	}
+	return out, true
 }
 
 // take answers whether a code can become piece, and keeps that for a variable.

@@ -81,3 +81,28 @@ func TestAgrees(t *testing.T) {
 		}
 	}
 }
+
+func TestApply(t *testing.T) {
+	s := []api.Bind{{Var: 0, Term: []int{f, -2}}, {Var: 1, Term: []int{ann}}, {Var: 23, Term: []int{g, -24, -1}}}
+	long := func(n int) []int { return append(slices.Repeat([]int{ann}, n), -1) }
+	for _, c := range []struct {
+		s       []api.Bind
+		r, want []int
+		ok      bool
+	}{
+		{nil, nil, nil, true},
+		{s, []int{}, nil, true},
+		{nil, []int{g, -1, ann}, []int{g, -1, ann}, true},
+		{s, []int{g, -1, -2, -3, -24, -1}, []int{g, f, -2, ann, -3, g, -24, -1, f, -2}, true},
+		{s, long(api.MaxTerm - 2), append(slices.Repeat([]int{ann}, api.MaxTerm-2), f, -2), true},
+		{s, long(api.MaxTerm - 1), nil, false},
+		{nil, long(api.MaxTerm - 1), long(api.MaxTerm - 1), true},
+		{nil, long(api.MaxTerm), nil, false},
+	} {
+		before := slices.Clone(c.r)
+		got, ok := change.Apply(c.s, c.r)
+		if ok != c.ok || !slices.Equal(got, c.want) || !slices.Equal(c.r, before) {
+			t.Errorf("Apply(%v, %v) = %v, %t; want %v, %t", c.s, c.r, got, ok, c.want, c.ok)
+		}
+	}
+}

@@ -52,3 +52,16 @@ func HasLit(ls []api.Lit, l api.Lit) bool {
 		return SameLit(l, m)
 	})
 }
+
+// Parts returns the Atoms and Tuples of c, in the order in which variables are met; they are those of c, not copies.
+func Parts(c api.Clause) [][]int {
+	var out [][]int
+	for _, l := range c.Lits {
+		out = append(out, l.Atom)
+	}
+	out = append(out, c.Tuples...)
+	for _, l := range c.Conds {
+		out = append(out, l.Atom)
+	}
+	return out
+}

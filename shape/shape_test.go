@@ -130,3 +130,15 @@ func TestSameLit(t *testing.T) {
 		t.Error("no literal, no codes")
 	}
 }
+
+func TestParts(t *testing.T) {
+	a, b, r, s, c, d := []int{rains}, []int{eq, ann, -1}, []int{-3, -4}, []int{}, []int{eq, -1, -1}, []int{between, -1, -2, -3}
+	clause := api.Clause{Lits: []api.Lit{{Neg: true, Atom: a}, {Atom: b}}, Tuples: [][]int{r, s}, Conds: []api.Lit{{Atom: c}, {Neg: true, Atom: d}}}
+	want := [][]int{a, b, r, s, c, d}
+	if got := shape.Parts(clause); !slices.EqualFunc(got, want, func(x, y []int) bool { return slices.Equal(x, y) }) {
+		t.Errorf("Parts(%v) = %v", clause, got)
+	}
+	if got := shape.Parts(api.Clause{}); len(got) > 0 {
+		t.Errorf("Parts of nothing = %v", got)
+	}
+}
